@@ -101,7 +101,8 @@ func TestCheckCounts(t *testing.T) {
 	}
 }
 
-// TestDefinition: promises LA1 and LA2, against the definitions, for all small Lats.
+// TestDefinition: promises LA1 and LA2, against the definitions, for all Lats of up to 2 levels, and all
+// of 3 and 4 levels with no bit above bit 3.
 func TestDefinition(t *testing.T) {
 	for _, c := range []struct{ n, limit int }{{0, 1}, {1, 256}, {2, 256}, {3, 16}, {4, 16}} {
 		everyUp(c.n, c.limit, false, func(up []uint8) { checkDefinition(t, up) })
