@@ -106,31 +106,36 @@ func TestEncodeExamples(t *testing.T) {
 	}
 }
 
-// checkEncodeOne compares Encode of one valid instruction to the definition.
-func checkEncodeOne(t *testing.T, code uint8, a, b int) {
+// checkOne compares Encode and Decode of one valid instruction to the definition.
+func checkOne(t *testing.T, code uint8, a, b int) {
 	t.Helper()
 	o := op.Op{Code: code, A: a, B: b}
-	if got, err := op.Encode([]op.Op{o}); !bytes.Equal(got, refEncoding(o)) || err != nil {
-		t.Fatalf("Encode(%v) is %x, %v, want %x", o, got, err, refEncoding(o))
+	want := refEncoding(o)
+	if got, err := op.Encode([]op.Op{o}); !bytes.Equal(got, want) || err != nil {
+		t.Fatalf("Encode(%v) is %x, %v, want %x", o, got, err, want)
+	}
+	l, offsets, err := op.Decode(want)
+	if len(l) != 1 || l[0] != o || len(offsets) != 1 || offsets[0] != 0 || err != nil {
+		t.Fatalf("Decode(%x) is %v, %d, %v, want %v", want, l, offsets, err, o)
 	}
 }
 
-// TestEncodeAllOperands: promise OP2, all operands of one byte, in all pairs, and all operands of two
+// TestAllOperands: promises OP2 and OP3, all operands of one byte, in all pairs, and all operands of two
 // bytes, with some others.
-func TestEncodeAllOperands(t *testing.T) {
+func TestAllOperands(t *testing.T) {
 	for _, code := range knownCodes {
 		mostA, mostB := greatest(known[code].form, 0), greatest(known[code].form, 1)
 		others := []int{0, 1, 255, 256, 0x1234, 65535}
 		for a := range mostA + 1 {
 			if mostB <= 255 {
 				for b := range mostB + 1 {
-					checkEncodeOne(t, code, a, b)
+					checkOne(t, code, a, b)
 				}
 				continue
 			}
 			for _, other := range others {
-				checkEncodeOne(t, code, a, other)
-				checkEncodeOne(t, code, other, a)
+				checkOne(t, code, a, other)
+				checkOne(t, code, other, a)
 			}
 		}
 	}
