@@ -195,7 +195,7 @@ func TestRandomLong(t *testing.T) {
 	source := rand.New(rand.NewPCG(8, 3))
 	long := 0
 	for range 12 {
-		for _, b := range [][]byte{structured(source, 60, 4), tangled(source, 130)} {
+		for _, b := range [][]byte{structured(source, 60, 4), tangled(source, 118)} {
 			if len(b) <= 512 && checkDefinition(t, b) != 0 {
 				t.Fatalf("%x is not well-formed", b)
 			}
@@ -204,7 +204,7 @@ func TestRandomLong(t *testing.T) {
 			}
 		}
 	}
-	if long < 12 {
+	if long < 20 {
 		t.Errorf("only %d are long", long)
 	}
 }
