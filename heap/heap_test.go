@@ -361,7 +361,7 @@ func TestHash(t *testing.T) {
 // TestNil: the sentence ahead of the promises, the methods of a nil Heap.
 func TestNil(t *testing.T) {
 	var h *heap.Heap
-	if items, counts := h.All(); h.Len() != 0 || items != nil || counts != nil {
+	if items, counts := h.All(); h.Len() != 0 || len(items) != 0 || len(counts) != 0 {
 		t.Errorf("Len is %d, All is %v, %v", h.Len(), items, counts)
 	}
 	checkCollect(t, h, 0)
